@@ -27,13 +27,13 @@ func Signed(a int) int {
 // Sin of an angle.
 func Sin(a int) float64 {
 	sin, _ := sides(a)
-	return unsignedZero(sin)
+	return Unsigned(sin)
 }
 
 // Cos of an angle.
 func Cos(a int) float64 {
 	_, cos := sides(a)
-	return unsignedZero(cos)
+	return Unsigned(cos)
 }
 
 // Nearest: the angle nearest to a number of radians; 0, if there is none.
@@ -88,9 +88,9 @@ func sides(a int) (sin, cos float64) {
 	even := [9]float64{1, -1.0 / 2, 1.0 / 24, -1.0 / 720, 1.0 / 40320, -1.0 / 3628800, 1.0 / 479001600, -1.0 / 87178291200, 1.0 / 20922789888000}
 	a = Norm(a)
 	q := (a + api.Turn/8) / (api.Turn / 4)
-	x := float64(a-q*(api.Turn/4)) * api.Rad
+	x := float64(float64(a-q*(api.Turn/4)) * api.Rad)
 	z := float64(x * x)
-	s, c := x*polynomial(odd[:], z), polynomial(even[:], z)
+	s, c := float64(x*polynomial(odd[:], z)), polynomial(even[:], z)
 	switch q % 4 {
 	case 1:
 		return c, -s

@@ -45,6 +45,14 @@ func Exp(x float64) float64 {
 	return math.Ldexp(polynomial(parts[:], r), int(k))
 }
 
+// Unsigned: a number whose 0 has no sign, as all that is answered has none.
+func Unsigned(x float64) float64 {
+	if x == 0 {
+		return 0
+	}
+	return x
+}
+
 // polynomial of z, the coefficient of its greatest power last. The product is rounded by itself: without the conversion it could be fused with the sum.
 func polynomial(parts []float64, z float64) float64 {
 	p := 0.0

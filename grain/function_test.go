@@ -134,3 +134,18 @@ func TestFunctionEnds(t *testing.T) {
 		t.Error("Exp")
 	}
 }
+
+// P3: the 0 of what is answered has no sign.
+func TestUnsigned(t *testing.T) {
+	if math.Signbit(grain.Unsigned(math.Copysign(0, -1))) || math.Signbit(grain.Unsigned(0)) {
+		t.Error("a zero has a sign")
+	}
+	for _, x := range []float64{1, -1, math.SmallestNonzeroFloat64, -math.SmallestNonzeroFloat64, math.Inf(1), math.Inf(-1)} {
+		if got := grain.Unsigned(x); got != x {
+			t.Error(x, got)
+		}
+	}
+	if !math.IsNaN(grain.Unsigned(math.NaN())) {
+		t.Error("NaN is a number")
+	}
+}

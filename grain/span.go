@@ -52,7 +52,7 @@ func told(a api.Span) (api.Span, bool) {
 	if !rightSpan(a) {
 		return api.Span{}, false
 	}
-	return api.Span{Lo: unsignedZero(a.Lo), Hi: unsignedZero(a.Hi)}, true
+	return api.Span{Lo: Unsigned(a.Lo), Hi: Unsigned(a.Hi)}, true
 }
 
 func rightSpan(a api.Span) bool { return finite(a.Lo) && finite(a.Hi) && a.Lo <= a.Hi }
@@ -62,11 +62,3 @@ func finite(x float64) bool { return !math.IsNaN(x) && !math.IsInf(x, 0) }
 func nextBelow(x float64) float64 { return math.Nextafter(x, math.Inf(-1)) }
 
 func nextAbove(x float64) float64 { return math.Nextafter(x, math.Inf(1)) }
-
-// unsignedZero: the 0 of what is answered has no sign.
-func unsignedZero(x float64) float64 {
-	if x == 0 {
-		return 0
-	}
-	return x
-}
