@@ -97,6 +97,18 @@ func TestValidGlobes(t *testing.T) {
 }
 
 // P21.
+func TestBulge(t *testing.T) {
+	for _, c := range []struct {
+		globe int
+		want  float64
+	}{{wgs84, 0x1.b6b90f1fe94f1p-8}, {bessel, 0x1.b5696274f8c20p-8}, {one, 0.4375}, {ball, 0}} {
+		if e := globeOf(t, c.globe).Bulge(); !same(e, c.want) {
+			t.Errorf("%v: %x", c, e)
+		}
+	}
+}
+
+// P21.
 func TestCross(t *testing.T) {
 	for _, c := range []struct {
 		globe, lat int
