@@ -25,7 +25,7 @@ func pick(r *rand.Rand, low, high float64) float64 {
 // flattening that P45 speaks of; hardly any among them.
 func flattening(r *rand.Rand) float64 {
 	if r.Intn(3) == 0 {
-		return math.Pow(10, -2-20*r.Float64())
+		return math.Pow(10, -2-40*r.Float64())
 	}
 	return pick(r, 0, 0.01)
 }
