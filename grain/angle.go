@@ -90,7 +90,7 @@ func sides(a int) (sin, cos float64) {
 	q := (a + api.Turn/8) / (api.Turn / 4)
 	x := float64(float64(a-q*(api.Turn/4)) * api.Rad)
 	z := float64(x * x)
-	s, c := float64(x*polynomial(odd[:], z)), polynomial(even[:], z)
+	s, c := float64(x*Polynomial(z, odd[:]...)), Polynomial(z, even[:]...)
 	switch q % 4 {
 	case 1:
 		return c, -s

@@ -24,7 +24,7 @@ func Ln(x float64) float64 {
 	}
 	odd := [12]float64{1, 1.0 / 3, 1.0 / 5, 1.0 / 7, 1.0 / 9, 1.0 / 11, 1.0 / 13, 1.0 / 15, 1.0 / 17, 1.0 / 19, 1.0 / 21, 1.0 / 23}
 	s := (m - 1) / (m + 1)
-	p := polynomial(odd[:], float64(s*s))
+	p := Polynomial(float64(s*s), odd[:]...)
 	k := float64(power)
 	return float64(k*lnGreat) + (float64(2*float64(s*p)) + float64(k*lnSmall))
 }
@@ -42,7 +42,7 @@ func Exp(x float64) float64 {
 	parts := [15]float64{1, 1, 1.0 / 2, 1.0 / 6, 1.0 / 24, 1.0 / 120, 1.0 / 720, 1.0 / 5040, 1.0 / 40320, 1.0 / 362880, 1.0 / 3628800, 1.0 / 39916800, 1.0 / 479001600, 1.0 / 6227020800, 1.0 / 87178291200}
 	k := math.Floor(float64(x*1.4426950408889634) + 0.5)
 	r := (x - float64(k*lnGreat)) - float64(k*lnSmall)
-	return math.Ldexp(polynomial(parts[:], r), int(k))
+	return math.Ldexp(Polynomial(r, parts[:]...), int(k))
 }
 
 // Unsigned: a number whose 0 has no sign, as all that is answered has none.
@@ -53,8 +53,8 @@ func Unsigned(x float64) float64 {
 	return x
 }
 
-// polynomial of z, the coefficient of its greatest power last. The product is rounded by itself: without the conversion it could be fused with the sum.
-func polynomial(parts []float64, z float64) float64 {
+// Polynomial of z, the coefficient of its greatest power last. The product is rounded by itself: without the conversion it could be fused with the sum.
+func Polynomial(z float64, parts ...float64) float64 {
 	p := 0.0
 	for i := len(parts) - 1; i >= 0; i-- {
 		p = parts[i] + float64(z*p)

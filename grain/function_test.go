@@ -149,3 +149,18 @@ func TestUnsigned(t *testing.T) {
 		t.Error("NaN is a number")
 	}
 }
+
+func TestPolynomial(t *testing.T) {
+	for _, c := range []struct {
+		z     float64
+		parts []float64
+		want  float64
+	}{
+		{3, nil, 0}, {3, []float64{7}, 7}, {3, []float64{7, -2}, 1}, {-2, []float64{1, 2, 3, 4}, -23}, {0, []float64{5, 1, 1}, 5}, {0.5, []float64{0, 0, 0, 1}, 0.125},
+		{1 + 0x1p-52, []float64{-1, 1 - 0x1p-53}, 0}, // the product is rounded by itself: fused with the sum it would not give 0
+	} {
+		if got := grain.Polynomial(c.z, c.parts...); !sameBits(got, c.want) {
+			t.Error(c, got)
+		}
+	}
+}
