@@ -190,6 +190,45 @@ func TestNeighbours(t *testing.T) {
 	}
 }
 
+// P120: all cells of samples, in all directions, and in what is none.
+func TestNeighbourSamples(t *testing.T) {
+	for _, a := range samples(120) {
+		for cell := range a.L {
+			for direction := range 8 {
+				want := beside(a, cell, direction)
+				if got, ok := drain.Neighbour(a, cell, direction); ok != (want >= 0) || got != max(want, 0) {
+					t.Error(a, cell, direction, got, ok, want)
+				}
+			}
+			for _, direction := range []int{-1, api.Sink, api.Sink + 1, math.MaxInt, math.MinInt} {
+				if got, ok := drain.Neighbour(a, cell, direction); ok || got != 0 {
+					t.Error(a, cell, direction, got)
+				}
+			}
+			if got := drain.OnRim(a, cell); got != onRim(a, cell) {
+				t.Error(a, cell, got)
+			}
+		}
+	}
+}
+
+// P1: what is no raster, and no cell of one, has no neighbours.
+func TestNoNeighbours(t *testing.T) {
+	for _, a := range []api.Raster{{}, {Wide: 3, High: 3}, {Wide: 0, High: 1, L: []int{1}}, {Wide: -1, High: -1, L: []int{1}}, {Wide: math.MinInt, High: math.MaxInt, L: []int{1}}} {
+		for _, cell := range []int{-1, 0, 1, math.MaxInt, math.MinInt} {
+			if got, ok := drain.Neighbour(a, cell, api.South); ok || got != 0 || !drain.OnRim(a, cell) {
+				t.Error(a, cell, got, ok)
+			}
+		}
+	}
+	a := flat(3, 3, 0)
+	for _, cell := range []int{-1, -5, 9, 13, math.MaxInt, math.MinInt} {
+		if got, ok := drain.Neighbour(a, cell, api.North); ok || got != 0 || !drain.OnRim(a, cell) {
+			t.Error(cell, got, ok)
+		}
+	}
+}
+
 // P120: where a side is 1 or 2, all cells are of the rim: each keeps its height, and they are taken by height, then by number.
 func TestAllRim(t *testing.T) {
 	for _, a := range []api.Raster{

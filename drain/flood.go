@@ -26,7 +26,7 @@ type flood struct {
 func flooded(a api.Raster) *flood {
 	f := &flood{ground: a, level: make([]int, len(a.L)), flow: slices.Repeat([]int{dry}, len(a.L))}
 	for cell, height := range a.L {
-		if onRim(a, cell) {
+		if OnRim(a, cell) {
 			f.wait(cell, height, api.Sink)
 		}
 	}
@@ -50,7 +50,7 @@ func (f *flood) take() {
 	}
 	f.order = append(f.order, taken.cell)
 	for direction := range directions {
-		other, ok := neighbour(f.ground, taken.cell, direction)
+		other, ok := Neighbour(f.ground, taken.cell, direction)
 		if ok && f.flow[other] == dry {
 			f.wait(other, max(f.ground.L[other], taken.level), opposite(direction))
 		}
@@ -58,22 +58,25 @@ func (f *flood) take() {
 }
 
 // next cell, into which a cell flows; false: it is of the rim.
-func (f *flood) next(cell int) (int, bool) { return neighbour(f.ground, cell, f.flow[cell]) }
+func (f *flood) next(cell int) (int, bool) { return Neighbour(f.ground, cell, f.flow[cell]) }
 
-// neighbour of a cell in a direction; false: there is none.
-func neighbour(a api.Raster, cell, direction int) (int, bool) {
+// Neighbour of a raster's cell in a direction; false: there is none.
+func Neighbour(a api.Raster, cell, direction int) (int, bool) {
+	if a.Wide < 1 || !within(cell, 0, len(a.L)-1) || !within(direction, 0, directions-1) {
+		return 0, false
+	}
 	east, north := step(direction)
 	col, row := cell%a.Wide+east, cell/a.Wide-north
-	if direction == api.Sink || !within(col, 0, a.Wide-1) || !within(row, 0, a.High-1) {
+	if !within(col, 0, a.Wide-1) || !within(row, 0, a.High-1) {
 		return 0, false
 	}
 	return row*a.Wide + col, true
 }
 
-// onRim: has a cell fewer neighbours than there are directions?
-func onRim(a api.Raster, cell int) bool {
+// OnRim: has a raster's cell fewer neighbours than there are directions?
+func OnRim(a api.Raster, cell int) bool {
 	for direction := range directions {
-		if _, ok := neighbour(a, cell, direction); !ok {
+		if _, ok := Neighbour(a, cell, direction); !ok {
 			return true
 		}
 	}
