@@ -310,6 +310,82 @@ func TestAtLine(t *testing.T) {
 	}
 }
 
+// Times, worked out by hand: thirds of a step over both triangles and their cut, whole steps, and rasters that have no triangle.
+func TestTimes(t *testing.T) {
+	a := raster(3, 0, 4, -1, 8, 16, 7)
+	for _, c := range []struct {
+		a                        api.Raster
+		east, south, parts, want int
+	}{
+		{a, 0, 0, 1, 0},
+		{a, 1, 1, 1, 16},
+		{a, 2, 1, 1, 7},
+		{a, 2, 1, 3, 20},
+		{a, 1, 2, 3, 24},
+		{a, 2, 2, 3, 32},
+		{a, 4, 0, 3, 7},
+		{a, 6, 3, 3, 21},
+		{a, 5, 3, 3, 30},
+		{raster(2, 0, 1), 1, 0, 2, 1},
+		{raster(1, 0, 3), 0, 1, 2, 3},
+		{raster(1, 5, 3, -9), 0, 14, 7, -63},
+		{raster(1, -7), 0, 0, 5, -35},
+		{raster(2, api.MaxHigh, -api.MaxHigh), api.MaxPlace, 0, api.MaxPlace, -api.MaxHigh * api.MaxPlace},
+		{raster(2, api.MaxHigh, -api.MaxHigh), api.MaxPlace / 2, 0, api.MaxPlace, 0},
+		{flat(api.MaxSide, api.MaxSide, 3), 127 * api.MaxPlace, 127 * api.MaxPlace, api.MaxPlace, 3 * api.MaxPlace},
+	} {
+		if got, ok := relief.Times(c.a, c.east, c.south, c.parts); !ok || got != c.want {
+			t.Error(c.a.Wide, c.a.High, c.east, c.south, c.parts, got, ok, c.want)
+		}
+	}
+}
+
+// Times is parts times what At tells, where both can be asked.
+func TestTimesSamples(t *testing.T) {
+	r := rand.New(rand.NewSource(105))
+	for _, a := range samples(106) {
+		for range 200 {
+			per := []int{1, 2, 8, 64, 256}[r.Intn(5)]
+			parts := 256 / per
+			east, south := r.Intn(parts*(a.Wide-1)+1), r.Intn(parts*(a.High-1)+1)
+			want, err := relief.At(a, api.Spot{X: per * east, Y: -per * south})
+			if got, ok := relief.Times(a, east, south, parts); err != nil || !ok || got*want.Den != want.Num*parts {
+				t.Fatal(a, east, south, parts, got, ok, want, err)
+			}
+		}
+	}
+}
+
+// Times tells nothing of what has another shape than a raster, of other parts, and beyond the first and last middles.
+func TestTimesWrong(t *testing.T) {
+	a := raster(2, 0, 4, 8, 16)
+	none := func(a api.Raster, east, south, parts int) {
+		t.Helper()
+		if got, ok := relief.Times(a, east, south, parts); ok || got != 0 {
+			t.Error(a.Wide, a.High, east, south, parts, got, ok)
+		}
+	}
+	for _, n := range []int{-1, 6, math.MaxInt, math.MinInt} {
+		none(a, n, 0, 5)
+		none(a, 0, n, 5)
+		none(a, n, n, 5)
+	}
+	for _, parts := range []int{0, -1, api.MaxPlace + 1, math.MaxInt, math.MinInt} {
+		none(a, 0, 0, parts)
+	}
+	for _, c := range wrongRasters() {
+		for _, n := range []int{0, 1, -1, math.MaxInt, math.MinInt} {
+			if c.err == api.ErrRange { // a wrong height is not looked for
+				relief.Times(c.a, 1, 1, 3)
+				relief.Times(c.a, n, n, n)
+			} else {
+				none(c.a, n, n, 3)
+				none(c.a, 0, 0, n)
+			}
+		}
+	}
+}
+
 // fracs of whole numbers over one that is given.
 func fracs(den int, nums ...int) []api.Frac {
 	var out []api.Frac
